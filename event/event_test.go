@@ -379,7 +379,7 @@ func TestAnyEvents(t *testing.T) {
 			t.Fatalf("%#v: %q, %d", e, s, err)
 		}
 		made, err := Make(e.Key, e.Attrs)
-		if (err == api.OK) != May(made) && err != api.ErrMalformed {
+		if err == api.OK && !May(made) || err != api.OK && err != api.ErrMalformed {
 			t.Fatalf("%#v: %#v, %d", e, made, err)
 		}
 		if May(e) && !Same(made, e) {
